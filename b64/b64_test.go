@@ -12,20 +12,9 @@ import (
 	"sync"
 	"testing"
 	"unsafe"
-)
 
-// sample answers a text of n bytes that follow no plain rule.
-func sample(n, seed int) string {
-	b := make([]byte, n)
-	x := uint64(n)<<32 + uint64(seed) + 1
-	for i := range b {
-		x ^= x << 13
-		x ^= x >> 7
-		x ^= x << 17
-		b[i] = byte(x * 0x2545f4914f6cdd1d >> 56)
-	}
-	return string(b)
-}
+	"engrosser/sample"
+)
 
 // library64 answers base 64 of s, and libraryRead64 the text of s, as Go's own library says. That one passes over ends of lines, so that it is asked the other way, too.
 func library64(s string) string { return base64.StdEncoding.EncodeToString([]byte(s)) }
@@ -121,9 +110,9 @@ func TestEncodeLengths(t *testing.T) {
 
 // longTexts answers texts of every length, of bytes of all kinds.
 func longTexts() []string {
-	all := []string{sample(1<<20, 1), strings.Repeat("äöü€", 100), "\xef\xbf\xbd\x80\xff"}
+	all := []string{sample.Text(1<<20, 1), strings.Repeat("äöü€", 100), "\xef\xbf\xbd\x80\xff"}
 	for n := range 300 {
-		all = append(all, sample(n, 0), strings.Repeat("\x00", n), strings.Repeat("\xff", n))
+		all = append(all, sample.Text(n, 0), strings.Repeat("\x00", n), strings.Repeat("\xff", n))
 	}
 	return all
 }
@@ -161,7 +150,7 @@ func TestDecodeSmallTexts(t *testing.T) {
 func TestDecodeBytes(t *testing.T) {
 	right, wrong := 0, 0
 	for n := range 13 {
-		code := Encode(sample(n, 2))
+		code := Encode(sample.Text(n, 2))
 		for at := range code {
 			for b := range 256 {
 				if check64(t, code[:at]+string([]byte{byte(b)})+code[at+1:]) {
@@ -180,7 +169,7 @@ func TestDecodeBytes(t *testing.T) {
 // P7.1: what Encode answered, with something ahead, behind or inside, or with something taken away, is Encode of another text, or of none.
 func TestDecodeLengths(t *testing.T) {
 	for n := range 13 {
-		code := Encode(sample(n, 3))
+		code := Encode(sample.Text(n, 3))
 		for at := range len(code) + 1 {
 			check64(t, code[:at])
 			check64(t, code[at:])
@@ -456,7 +445,7 @@ func TestAtOneTime(t *testing.T) {
 	for i := range 8 {
 		wait.Go(func() {
 			for j := range 100 {
-				s := sample(j, i)
+				s := sample.Text(j, i)
 				one, ok1 := Decode(Encode(s))
 				two, ok2 := Unhex(Hex(s))
 				digits, _ := Number(i * j)

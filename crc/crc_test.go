@@ -8,20 +8,9 @@ import (
 	"sync"
 	"testing"
 	"unsafe"
-)
 
-// sample answers a text of n bytes that follow no plain rule.
-func sample(n, seed int) string {
-	b := make([]byte, n)
-	x := uint64(n)<<32 + uint64(seed) + 1
-	for i := range b {
-		x ^= x << 13
-		x ^= x >> 7
-		x ^= x << 17
-		b[i] = byte(x * 0x2545f4914f6cdd1d >> 56)
-	}
-	return string(b)
-}
+	"engrosser/sample"
+)
 
 // librarySum answers the sum of s as Go's own library says.
 func librarySum(s string) uint32 { return crc32.ChecksumIEEE([]byte(s)) }
@@ -46,7 +35,7 @@ func wordsOfChapter(sum uint32, s string) uint32 {
 func someSums() []uint32 {
 	all := []uint32{0, 1, math.MaxUint32, math.MaxInt32, 0xedb88320, ^uint32(0xedb88320), 0x04c11db7, 0xcbf43926, 0xdebb20e3, 0x2144df1c, 0xdeadbeef, 0x12345678}
 	for i := range 32 {
-		all = append(all, 1<<i, ^uint32(1<<i), librarySum(sample(i, 4)))
+		all = append(all, 1<<i, ^uint32(1<<i), librarySum(sample.Text(i, 4)))
 	}
 	return all
 }
@@ -82,9 +71,9 @@ func TestSumShort(t *testing.T) {
 
 // P8.1: texts of every length, and a long one.
 func TestSumLengths(t *testing.T) {
-	all := []string{sample(1<<20, 1), strings.Repeat("\x00", 1<<20), strings.Repeat("äöü€", 100), "\xef\xbf\xbd\x80\xff"}
+	all := []string{sample.Text(1<<20, 1), strings.Repeat("\x00", 1<<20), strings.Repeat("äöü€", 100), "\xef\xbf\xbd\x80\xff"}
 	for n := range 600 {
-		all = append(all, sample(n, 0), strings.Repeat("\x00", n), strings.Repeat("\xff", n))
+		all = append(all, sample.Text(n, 0), strings.Repeat("\x00", n), strings.Repeat("\xff", n))
 	}
 	for _, s := range all {
 		if got := Sum(s); got != librarySum(s) {
@@ -96,7 +85,7 @@ func TestSumLengths(t *testing.T) {
 // P8.1: More of any number, with each byte behind it, with nothing, and with longer texts.
 func TestMore(t *testing.T) {
 	for _, sum := range someSums() {
-		all := []string{"", sample(3, 1), sample(4, 1), sample(5, 1), sample(50, 1), "\x00\x00\x00\x00", "\xff\xff\xff\xff"}
+		all := []string{"", sample.Text(3, 1), sample.Text(4, 1), sample.Text(5, 1), sample.Text(50, 1), "\x00\x00\x00\x00", "\xff\xff\xff\xff"}
 		for i := range 256 {
 			all = append(all, string([]byte{byte(i)}))
 		}
@@ -115,7 +104,7 @@ func TestMore(t *testing.T) {
 // P8.1: a text in pieces has the sum of the whole.
 func TestMorePieces(t *testing.T) {
 	for n := range 60 {
-		s := sample(n, 2)
+		s := sample.Text(n, 2)
 		want := librarySum(s)
 		for i := range n + 1 {
 			for j := range n + 1 - i {
@@ -126,7 +115,7 @@ func TestMorePieces(t *testing.T) {
 		}
 	}
 	sum := uint32(0)
-	s := sample(3000, 3)
+	s := sample.Text(3000, 3)
 	for i := range len(s) {
 		sum = More(sum, s[i:i+1])
 	}
@@ -137,9 +126,9 @@ func TestMorePieces(t *testing.T) {
 
 // P8.2: two texts that are joined, wherever they meet.
 func TestJoin(t *testing.T) {
-	all := []string{strings.Repeat("\x00", 40), strings.Repeat("\xff", 40), "\x00" + sample(39, 1) + "\x00"}
+	all := []string{strings.Repeat("\x00", 40), strings.Repeat("\xff", 40), "\x00" + sample.Text(39, 1) + "\x00"}
 	for n := range 80 {
-		all = append(all, sample(n, 5))
+		all = append(all, sample.Text(n, 5))
 	}
 	for _, s := range all {
 		for i := range len(s) + 1 {
@@ -152,7 +141,7 @@ func TestJoin(t *testing.T) {
 
 // P8.2: long texts behind, of sizes about powers of 2, and up to the longest.
 func TestJoinLong(t *testing.T) {
-	s := sample(1000000, 6)
+	s := sample.Text(1000000, 6)
 	b := uint32(0)
 	a := librarySum("ahead")
 	from := 0
@@ -217,7 +206,7 @@ func turned(s string, pattern uint32, from int) string {
 // P8.3: one to 32 bits in a row are turned, anywhere: all of them, or just some between the first and the last.
 func TestBitsInARow(t *testing.T) {
 	for _, n := range []int{1, 2, 3, 4, 5, 8, 9, 13, 40} {
-		s := sample(n, 7)
+		s := sample.Text(n, 7)
 		sum := Sum(s)
 		for size := range 32 {
 			for from := range 8*n - size {
@@ -273,7 +262,7 @@ func TestAtOneTime(t *testing.T) {
 	for i := range 8 {
 		wait.Go(func() {
 			for j := range 100 {
-				s := sample(j, i)
+				s := sample.Text(j, i)
 				a, b := Sum(s[:j/2]), Sum(s[j/2:])
 				if More(a, s[j/2:]) != librarySum(s) || Join(a, b, j-j/2) != librarySum(s) {
 					t.Errorf("%x: got %x, %x", s, a, b)

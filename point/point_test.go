@@ -12,6 +12,7 @@ import (
 
 	"engrosser/api"
 	"engrosser/field"
+	"engrosser/sample"
 	"engrosser/scalar"
 )
 
@@ -89,19 +90,6 @@ func value(s string) *big.Int {
 	return n
 }
 
-// sample answers a text of n bytes that follow no plain rule.
-func sample(n, seed int) string {
-	b := make([]byte, n)
-	x := uint64(n)<<32 + uint64(seed) + 1
-	for i := range b {
-		x ^= x << 13
-		x ^= x >> 7
-		x ^= x << 17
-		b[i] = byte(x * 0x2545f4914f6cdd1d >> 56)
-	}
-	return string(b)
-}
-
 // unhex answers the bytes of those digits.
 func unhex(s string) string {
 	b, err := hex.DecodeString(s)
@@ -175,12 +163,12 @@ func small(t *testing.T) []api.Point {
 func points(t *testing.T) []api.Point {
 	all := small(t)
 	b := Base()
-	for _, s := range []string{"\x01", "\x02", "\x03", "\x08", text(new(big.Int).Sub(theL, big.NewInt(1)), 32), sample(32, 1)} {
+	for _, s := range []string{"\x01", "\x02", "\x03", "\x08", text(new(big.Int).Sub(theL, big.NewInt(1)), 32), sample.Text(32, 1)} {
 		all = append(all, multiplied(s, b))
 	}
 	all = append(all, added(all[3], b), added(all[2], all[9]), added(all[4], all[13]))
 	for i := 0; len(all) < 22; i++ {
-		if p, ok := Decode(sample(31, i) + "\x33"); ok {
+		if p, ok := Decode(sample.Text(31, i) + "\x33"); ok {
 			all = append(all, p)
 		}
 	}
@@ -308,7 +296,7 @@ func TestStrangersAreZero(t *testing.T) {
 		if Add(p, p) != zero() || Neg(p) != zero() {
 			t.Errorf("%x: added to itself %x, turned %x", p, Add(p, p), Neg(p))
 		}
-		for _, s := range []string{"", "\x00", "\x01", "\x02", sample(32, 3)} {
+		for _, s := range []string{"", "\x00", "\x01", "\x02", sample.Text(32, 3)} {
 			if got := Mul(s, p); got != zero() {
 				t.Errorf("%x times %x: got %x", p, s, got)
 			}
@@ -388,7 +376,7 @@ func TestMul(t *testing.T) {
 			}
 		}
 	}
-	all = append(all, strings.Repeat("\xff", 32), strings.Repeat("\xf0", 32), strings.Repeat("\x0f", 32), strings.Repeat("\xfe\xdc\xba\x98\x76\x54\x32\x10", 4), sample(32, 4), sample(32, 5))
+	all = append(all, strings.Repeat("\xff", 32), strings.Repeat("\xf0", 32), strings.Repeat("\x0f", 32), strings.Repeat("\xfe\xdc\xba\x98\x76\x54\x32\x10", 4), sample.Text(32, 4), sample.Text(32, 5))
 	few := points(t)
 	for i, s := range all {
 		for _, p := range []api.Point{Base(), few[1], few[15], few[8+i%14], few[i%8]} {
@@ -420,14 +408,14 @@ func TestMulBits(t *testing.T) {
 func TestMulLengths(t *testing.T) {
 	p := points(t)[16]
 	for n := range 70 {
-		for _, s := range []string{sample(n, 6), strings.Repeat("\xff", n), strings.Repeat("\x00", n)} {
+		for _, s := range []string{sample.Text(n, 6), strings.Repeat("\xff", n), strings.Repeat("\x00", n)} {
 			got := Mul(s, p)
 			if n%8 < 2 && got != multiplied(s, p) || got != Mul(s[:min(n, 32)]+strings.Repeat("\x00", 32-min(n, 32)), p) {
 				t.Errorf("%x: got %x", s, got)
 			}
 		}
 	}
-	if s := sample(32, 7); Mul(s+"\x01", p) != Mul(s, p) || Mul(s+sample(1<<20, 8), p) != Mul(s, p) || Mul(s[:31], p) == Mul(s, p) {
+	if s := sample.Text(32, 7); Mul(s+"\x01", p) != Mul(s, p) || Mul(s+sample.Text(1<<20, 8), p) != Mul(s, p) || Mul(s[:31], p) == Mul(s, p) {
 		t.Error("33 bytes, 2^20 more, 31")
 	}
 	if Mul("", p) != zero() || Mul("", Base()) != zero() || Mul(strings.Repeat("\x00", 40)+"\x01", p) != zero() {
@@ -438,7 +426,7 @@ func TestMulLengths(t *testing.T) {
 // P5.2, P5.3: public keys, as Go's own library makes them.
 func TestPublicKeys(t *testing.T) {
 	for i := range 40 {
-		seed := sample(32, i)
+		seed := sample.Text(32, i)
 		half := sha512.Sum512([]byte(seed))
 		number, _ := scalar.Clamp(string(half[:32]))
 		wanted := string(ed25519.NewKeyFromSeed([]byte(seed))[32:])
@@ -552,7 +540,7 @@ func checkDecode(t *testing.T, s string) bool {
 func TestDecode(t *testing.T) {
 	count := 0
 	for i := range int64(200) {
-		for _, y := range []*big.Int{big.NewInt(i), new(big.Int).Sub(theP, big.NewInt(i+1)), modulo(value(sample(32, int(i))))} {
+		for _, y := range []*big.Int{big.NewInt(i), new(big.Int).Sub(theP, big.NewInt(i+1)), modulo(value(sample.Text(32, int(i))))} {
 			if checkDecode(t, text(y, 32)) {
 				count++
 			}
@@ -647,7 +635,7 @@ func TestMultiples(t *testing.T) {
 	b := Base()
 	all := points(t)
 	for i := range 20 {
-		m, n := sample(32, i), sample(i+1, 30)
+		m, n := sample.Text(32, i), sample.Text(i+1, 30)
 		p, q := all[i], all[(i*3+8)%len(all)]
 		sum := scalar.MulAdd(m, "\x01", n)
 		if Add(Mul(m, b), Mul(n, b)) != Mul(sum, b) {
@@ -683,7 +671,7 @@ func TestReckoned(t *testing.T) {
 // P3: a text that is handed in is not written into, nor what stands behind it, nor kept; nor does an answer share memory with another.
 func TestTextIsNotKept(t *testing.T) {
 	s, _ := Encode(Neg(Base()))
-	kept := s + sample(32, 1)
+	kept := s + sample.Text(32, 1)
 	memory := []byte(kept)
 	handed := unsafe.String(&memory[0], 32)
 	p, ok := Decode(handed)
@@ -709,7 +697,7 @@ func TestAtOneTime(t *testing.T) {
 	for i := range 8 {
 		wait.Go(func() {
 			for j := range 4 {
-				p, s := few[i+j], sample(32, i)
+				p, s := few[i+j], sample.Text(32, i)
 				if Mul(s, p) != multiplied(s, p) || Add(p, few[j]) != added(p, few[j]) {
 					t.Errorf("%x, %x", p, s)
 				}

@@ -10,6 +10,8 @@ import (
 	"sync"
 	"testing"
 	"unsafe"
+
+	"engrosser/sample"
 )
 
 // theL is the chapter's L, read from its decimal digits.
@@ -64,19 +66,6 @@ func wantedMulAdd(a, b, c string) string {
 	return modulo(n.Add(n, value(first(c, 32))))
 }
 
-// sample answers a text of n bytes that follow no plain rule.
-func sample(n, seed int) string {
-	b := make([]byte, n)
-	x := uint64(n)<<32 + uint64(seed) + 1
-	for i := range b {
-		x ^= x << 13
-		x ^= x >> 7
-		x ^= x << 17
-		b[i] = byte(x * 0x2545f4914f6cdd1d >> 56)
-	}
-	return string(b)
-}
-
 // edges answers texts of so many bytes at which a carry, a word, a borrow or an L more or less may be missed.
 func edges(size int) (all []string) {
 	numbers := []*big.Int{}
@@ -117,7 +106,7 @@ func someEdges() (all []string) {
 		}
 	}
 	for i := range 10 {
-		all = append(all, sample(32, i))
+		all = append(all, sample.Text(32, i))
 	}
 	return all
 }
@@ -126,7 +115,7 @@ func someEdges() (all []string) {
 func TestRight(t *testing.T) {
 	all := edges(32)
 	for i := range 2000 {
-		s := sample(32, i)
+		s := sample.Text(32, i)
 		all = append(all, s, s[:31]+string([]byte{s[31] & 0x1f}), s[:31]+"\x10", s[:31]+"\x0f", s[:16]+strings.Repeat("\x00", 15)+"\x10")
 	}
 	for _, s := range all {
@@ -159,7 +148,7 @@ func TestRightBytes(t *testing.T) {
 // P4.1: a text of any other length is not right, whatever its number.
 func TestRightLengths(t *testing.T) {
 	for n := range 150 {
-		for _, s := range []string{strings.Repeat("\x00", n), sample(n, 1), first("\x01"+strings.Repeat("\x00", 150), n), first(strings.Repeat(text(new(big.Int).Sub(theL, big.NewInt(1)), 32), 5), n)} {
+		for _, s := range []string{strings.Repeat("\x00", n), sample.Text(n, 1), first("\x01"+strings.Repeat("\x00", 150), n), first(strings.Repeat(text(new(big.Int).Sub(theL, big.NewInt(1)), 32), 5), n)} {
 			wanted := n == 32 && value(s).Cmp(theL) < 0
 			if got := Right(s); got != wanted {
 				t.Errorf("%x: got %v", s, got)
@@ -182,7 +171,7 @@ func TestExample(t *testing.T) {
 func TestReduce(t *testing.T) {
 	all := append(edges(64), edges(32)...)
 	for i := range 3000 {
-		all = append(all, sample(64, i), sample(32, i))
+		all = append(all, sample.Text(64, i), sample.Text(32, i))
 	}
 	for _, s := range all {
 		if got := Reduce(s); got != modulo(value(s)) {
@@ -194,16 +183,16 @@ func TestReduce(t *testing.T) {
 // P4.1: every length: one that is short counts as it is, and of one that is long just the first 64 bytes count.
 func TestReduceLengths(t *testing.T) {
 	for n := range 200 {
-		for _, s := range []string{sample(n, 0), strings.Repeat("\x00", n), strings.Repeat("\xff", n), first("\x01"+strings.Repeat("\x00", 200), n)} {
+		for _, s := range []string{sample.Text(n, 0), strings.Repeat("\x00", n), strings.Repeat("\xff", n), first("\x01"+strings.Repeat("\x00", 200), n)} {
 			if got := Reduce(s); got != modulo(value(first(s, 64))) {
 				t.Errorf("%x: got %x", s, got)
 			}
 		}
 	}
-	if s := sample(63, 9) + "\x07"; Reduce(s+"\x01") != Reduce(s) || Reduce(s+s) != Reduce(s) || Reduce(s[:63]) == Reduce(s) {
+	if s := sample.Text(63, 9) + "\x07"; Reduce(s+"\x01") != Reduce(s) || Reduce(s+s) != Reduce(s) || Reduce(s[:63]) == Reduce(s) {
 		t.Error("65 bytes, 128, 63")
 	}
-	if s := sample(1<<20, 9); Reduce(s) != Reduce(s[:64]) {
+	if s := sample.Text(1<<20, 9); Reduce(s) != Reduce(s[:64]) {
 		t.Error("2^20 bytes")
 	}
 }
@@ -213,7 +202,7 @@ func TestReduceMultiples(t *testing.T) {
 	nothing, last := strings.Repeat("\x00", 32), text(new(big.Int).Sub(theL, big.NewInt(1)), 32)
 	most := new(big.Int).Div(power(512), theL)
 	for i := range 2000 {
-		n := new(big.Int).Mod(value(sample(1+i%40, i)), most)
+		n := new(big.Int).Mod(value(sample.Text(1+i%40, i)), most)
 		n.Add(n, big.NewInt(1)).Mul(n, theL)
 		if got := Reduce(text(n, 64)); got != nothing {
 			t.Errorf("%x: got %x", n, got)
@@ -272,9 +261,9 @@ func TestMulAddCarries(t *testing.T) {
 
 // P4.1: texts of every length, each at each place: short ones count as they are, and of long ones just the first 32 bytes count.
 func TestMulAddLengths(t *testing.T) {
-	b, c := sample(32, 1), sample(32, 2)
+	b, c := sample.Text(32, 1), sample.Text(32, 2)
 	for n := range 150 {
-		for _, a := range []string{sample(n, 3), strings.Repeat("\xff", n)} {
+		for _, a := range []string{sample.Text(n, 3), strings.Repeat("\xff", n)} {
 			for _, l := range [][3]string{{a, b, c}, {b, a, c}, {b, c, a}, {a, a, a}, {a, a, ""}, {"", a, b}, {"", "", a}} {
 				if got := MulAdd(l[0], l[1], l[2]); got != wantedMulAdd(l[0], l[1], l[2]) {
 					t.Errorf("%x times %x, and %x: got %x", l[0], l[1], l[2], got)
@@ -306,7 +295,7 @@ func TestMulAddPlaces(t *testing.T) {
 // P4.1, P4.2: what they are for: the second half of a signature of RFC 8032, as Go's own library makes it.
 func TestSignatures(t *testing.T) {
 	for i := range 50 {
-		seed, message := sample(32, i), sample(i*3, 77)
+		seed, message := sample.Text(32, i), sample.Text(i*3, 77)
 		key := ed25519.NewKeyFromSeed([]byte(seed))
 		sig := string(ed25519.Sign(key, []byte(message)))
 		sum := library(seed)
@@ -356,7 +345,7 @@ func TestKnownSignature(t *testing.T) {
 func TestClamp(t *testing.T) {
 	for i := range 256 {
 		for j := range 256 {
-			middle := sample(30, i*256+j)
+			middle := sample.Text(30, i*256+j)
 			got, ok := Clamp(string([]byte{byte(i)}) + middle + string([]byte{byte(j)}))
 			wanted := string([]byte{byte(i / 8 * 8)}) + middle + string([]byte{byte(j%64 + 64)})
 			if got != wanted || !ok {
@@ -368,7 +357,7 @@ func TestClamp(t *testing.T) {
 
 // P4.2: what is clamped is a multiple of 8 of which bit 254 is the highest; clamped again it is the same.
 func TestClampedNumber(t *testing.T) {
-	for _, s := range append(edges(32), sample(32, 1), sample(32, 2)) {
+	for _, s := range append(edges(32), sample.Text(32, 1), sample.Text(32, 2)) {
 		got, ok := Clamp(s)
 		if n := value(got); !ok || len(got) != 32 || n.BitLen() != 255 || n.TrailingZeroBits() < 3 {
 			t.Errorf("%x: got %x, %v", s, got, ok)
@@ -387,7 +376,7 @@ func TestClampedNumber(t *testing.T) {
 // P4.2: a text of any other length is nothing.
 func TestClampNothing(t *testing.T) {
 	for n := range 150 {
-		for _, s := range []string{sample(n, 0), strings.Repeat("\x00", n), strings.Repeat("\xff", n)} {
+		for _, s := range []string{sample.Text(n, 0), strings.Repeat("\x00", n), strings.Repeat("\xff", n)} {
 			if got, ok := Clamp(s); ok != (n == 32) || n != 32 && got != "" {
 				t.Errorf("%x: got %x, %v", s, got, ok)
 			}
@@ -398,7 +387,7 @@ func TestClampNothing(t *testing.T) {
 // P4.2: every bit of texts of every length, as great numbers tell it, and what is behind them.
 func TestBit(t *testing.T) {
 	for n := range 130 {
-		s := sample(n, 5)
+		s := sample.Text(n, 5)
 		number := value(s)
 		for i := range 8*n + 70 {
 			if got := Bit(s, i); got != int(number.Bit(i)) {
@@ -457,7 +446,7 @@ func TestBitOfRunes(t *testing.T) {
 func TestReducedTwice(t *testing.T) {
 	all := append(edges(64), edges(32)...)
 	for i := range 300 {
-		all = append(all, sample(i, 4))
+		all = append(all, sample.Text(i, 4))
 	}
 	for _, s := range all {
 		once := Reduce(s)
@@ -496,7 +485,7 @@ func TestAnyOrder(t *testing.T) {
 
 // P3: a text that is handed in is not written into, nor what stands behind it, nor kept.
 func TestTextIsNotKept(t *testing.T) {
-	kept := sample(96, 1)
+	kept := sample.Text(96, 1)
 	memory := []byte(kept)
 	handed := unsafe.String(&memory[0], 32)
 	long := unsafe.String(&memory[0], 64)
@@ -519,7 +508,7 @@ func TestTextIsNotKept(t *testing.T) {
 // P3: each answer is new memory, even where it is what was handed in.
 func TestAnswerIsNew(t *testing.T) {
 	right := text(big.NewInt(5), 32)
-	clamped, _ := Clamp(sample(32, 1))
+	clamped, _ := Clamp(sample.Text(32, 1))
 	again, _ := Clamp(clamped)
 	third, _ := Clamp(clamped)
 	met := map[*byte]bool{}
@@ -537,7 +526,7 @@ func TestAtOneTime(t *testing.T) {
 	for i := range 8 {
 		wait.Go(func() {
 			for j := range 200 {
-				a, b := sample(32, i), sample(64, j)
+				a, b := sample.Text(32, i), sample.Text(64, j)
 				if MulAdd(a, b, a) != wantedMulAdd(a, b, a) || Reduce(b) != modulo(value(b)) {
 					t.Errorf("%x, %x", a, b)
 				}

@@ -13,6 +13,7 @@ import (
 
 	"engrosser/api"
 	"engrosser/point"
+	"engrosser/sample"
 )
 
 // theL is the order of the base, theP what the numbers of its curve are below (chapters 4 and 3).
@@ -55,19 +56,6 @@ func unhex(s string) string {
 	b, err := hex.DecodeString(s)
 	if err != nil {
 		panic(err)
-	}
-	return string(b)
-}
-
-// sample answers a text of n bytes that follow no plain rule.
-func sample(n, seed int) string {
-	b := make([]byte, n)
-	x := uint64(n)<<32 + uint64(seed) + 1
-	for i := range b {
-		x ^= x << 13
-		x ^= x >> 7
-		x ^= x << 17
-		b[i] = byte(x * 0x2545f4914f6cdd1d >> 56)
 	}
 	return string(b)
 }
@@ -123,7 +111,7 @@ func small(t *testing.T) []api.Point {
 func someSeeds() []string {
 	all := []string{strings.Repeat("\x00", 32), strings.Repeat("\xff", 32), strings.Repeat("\x80", 32), strings.Repeat("x", 32), "\x01" + strings.Repeat("\x00", 31), strings.Repeat("\x00", 31) + "\x01"}
 	for i := range 20 {
-		all = append(all, sample(32, i))
+		all = append(all, sample.Text(32, i))
 	}
 	return all
 }
@@ -176,7 +164,7 @@ func TestExample(t *testing.T) {
 func TestPublic(t *testing.T) {
 	all := someSeeds()
 	for i := range 256 {
-		all = append(all, flipped(sample(32, 1), i))
+		all = append(all, flipped(sample.Text(32, 1), i))
 	}
 	for _, seed := range all {
 		if got, ok := Public(seed); got != libraryKey(seed) || !ok {
@@ -191,7 +179,7 @@ func TestNoSeed(t *testing.T) {
 		if n == 32 {
 			continue
 		}
-		for _, seed := range []string{sample(n, 0), strings.Repeat("\x00", n), strings.Repeat(unhex(known[0].seed), 5)[:n]} {
+		for _, seed := range []string{sample.Text(n, 0), strings.Repeat("\x00", n), strings.Repeat(unhex(known[0].seed), 5)[:n]} {
 			if got, ok := Public(seed); got != "" || ok {
 				t.Errorf("%x: the public key is %x, %v", seed, got, ok)
 			}
@@ -207,7 +195,7 @@ func TestNoSeed(t *testing.T) {
 // P6.1: signatures of texts of every length over several blocks of a sum.
 func TestSign(t *testing.T) {
 	for n := range 400 {
-		seed, s := sample(32, n), sample(n, 1)
+		seed, s := sample.Text(32, n), sample.Text(n, 1)
 		if got, ok := Sign(seed, s); got != librarySign(seed, s) || !ok {
 			t.Errorf("%d bytes: got %x, %v", n, got, ok)
 		}
@@ -216,8 +204,8 @@ func TestSign(t *testing.T) {
 
 // P6.1: each seed with texts of all kinds: of bytes that are no UTF-8, of a seed, a key, a signature, a long one.
 func TestSignTexts(t *testing.T) {
-	seed := sample(32, 2)
-	for _, s := range []string{"\x00", "\x80\xff\xfe", seed, libraryKey(seed), librarySign(seed, ""), strings.Repeat("\x00", 128), sample(1<<20, 1)} {
+	seed := sample.Text(32, 2)
+	for _, s := range []string{"\x00", "\x80\xff\xfe", seed, libraryKey(seed), librarySign(seed, ""), strings.Repeat("\x00", 128), sample.Text(1<<20, 1)} {
 		for _, seed := range someSeeds() {
 			if got, ok := Sign(seed, s); got != librarySign(seed, s) || !ok {
 				t.Errorf("%x, %d bytes: got %x, %v", seed, len(s), got, ok)
@@ -233,8 +221,8 @@ func TestSignTexts(t *testing.T) {
 func TestSignHalves(t *testing.T) {
 	seen := map[string]bool{}
 	for i := range 50 {
-		sig, _ := Sign(sample(32, 3), sample(3, i))
-		again, _ := Sign(sample(32, 3), sample(3, i))
+		sig, _ := Sign(sample.Text(32, 3), sample.Text(3, i))
+		again, _ := Sign(sample.Text(32, 3), sample.Text(3, i))
 		if len(sig) != 64 || sig != again || value(sig[32:]).Cmp(theL) >= 0 {
 			t.Fatalf("%d: got %x, then %x", i, sig, again)
 		}
@@ -248,12 +236,12 @@ func TestSignHalves(t *testing.T) {
 // P6.2: what Go's own library signed is verified, with texts of every length; with another text, or another key, it is not.
 func TestVerify(t *testing.T) {
 	for n := range 270 {
-		seed, s := sample(32, n), sample(n, 2)
+		seed, s := sample.Text(32, n), sample.Text(n, 2)
 		public, sig := libraryKey(seed), librarySign(seed, s)
 		if !Verify(public, s, sig) {
 			t.Errorf("%d bytes: not verified", n)
 		}
-		others := []string{s + "\x00", "\x00" + s, sample(n+1, 2)}
+		others := []string{s + "\x00", "\x00" + s, sample.Text(n+1, 2)}
 		if n > 0 {
 			others = append(others, s[1:], s[:n-1], flipped(s, n*5%(8*n)))
 		}
@@ -262,18 +250,18 @@ func TestVerify(t *testing.T) {
 				t.Errorf("%x is verified with the signature of %x", other, s)
 			}
 		}
-		if Verify(libraryKey(sample(32, n+1)), s, sig) {
+		if Verify(libraryKey(sample.Text(32, n+1)), s, sig) {
 			t.Errorf("%d bytes: verified by the key of another seed", n)
 		}
 	}
-	if s := sample(1<<20, 3); !Verify(libraryKey(sample(32, 1)), s, librarySign(sample(32, 1), s)) {
+	if s := sample.Text(1<<20, 3); !Verify(libraryKey(sample.Text(32, 1)), s, librarySign(sample.Text(32, 1), s)) {
 		t.Error("2^20 bytes: not verified")
 	}
 }
 
 // P6.2: each bit of a signature, of a key and of a text counts.
 func TestVerifyBits(t *testing.T) {
-	seed, s := sample(32, 4), sample(40, 4)
+	seed, s := sample.Text(32, 4), sample.Text(40, 4)
 	public, sig := libraryKey(seed), librarySign(seed, s)
 	for i := range 512 {
 		if Verify(public, s, flipped(sig, i)) {
@@ -294,13 +282,13 @@ func TestVerifyBits(t *testing.T) {
 
 // P6.2: a signature has 64 bytes, a key 32: neither less nor more, nothing ahead, nothing behind.
 func TestVerifyLengths(t *testing.T) {
-	seed, s := sample(32, 5), "a text"
+	seed, s := sample.Text(32, 5), "a text"
 	public, sig := libraryKey(seed), librarySign(seed, s)
 	for n := range 200 {
-		if n != 64 && (Verify(public, s, (sig + sig + sig + sig)[:n]) || Verify(public, s, sample(n, 1)) || Verify(public, s, strings.Repeat("\x00", n))) {
+		if n != 64 && (Verify(public, s, (sig + sig + sig + sig)[:n]) || Verify(public, s, sample.Text(n, 1)) || Verify(public, s, strings.Repeat("\x00", n))) {
 			t.Errorf("a signature of %d bytes", n)
 		}
-		if n != 32 && (Verify(strings.Repeat(public, 7)[:n], s, sig) || Verify(sample(n, 1), s, sig)) {
+		if n != 32 && (Verify(strings.Repeat(public, 7)[:n], s, sig) || Verify(sample.Text(n, 1), s, sig)) {
 			t.Errorf("a key of %d bytes", n)
 		}
 	}
@@ -316,7 +304,7 @@ func TestVerifyLengths(t *testing.T) {
 
 // P6.2: one half in place of the other, or of another signature of the same seed, is none.
 func TestVerifyHalves(t *testing.T) {
-	seed := sample(32, 6)
+	seed := sample.Text(32, 6)
 	public, one, two := libraryKey(seed), librarySign(seed, "one"), librarySign(seed, "two")
 	if Verify(public, "one", one[32:]+one[:32]) || Verify(public, "one", one[:32]+two[32:]) || Verify(public, "one", two[:32]+one[32:]) || Verify(public, "one", two) {
 		t.Error("halves that are not its own")
@@ -329,7 +317,7 @@ func TestVerifyHalves(t *testing.T) {
 // P6.2: a second half of L or more is refused, though as often the base is the same point.
 func TestVerifySecondHalf(t *testing.T) {
 	for i := range 5 {
-		seed, s := sample(32, i), sample(i, 7)
+		seed, s := sample.Text(32, i), sample.Text(i, 7)
 		public, sig := libraryKey(seed), librarySign(seed, s)
 		for n := value(sig[32:]); n.Add(n, theL).BitLen() <= 256; {
 			if Verify(public, s, sig[:32]+text(n)) {
@@ -356,8 +344,8 @@ func TestVerifySecondHalf(t *testing.T) {
 // P6.2: keys that have a small point in them, or are one, and first halves likewise: a signature is one, just if the k that is reduced tells the same small point. No point counts 8 times.
 func TestVerifySmall(t *testing.T) {
 	all, good, bad := small(t), 0, 0
-	r := value(sample(31, 8))
-	for _, number := range []*big.Int{new(big.Int), value(sample(31, 9))} {
+	r := value(sample.Text(31, 8))
+	for _, number := range []*big.Int{new(big.Int), value(sample.Text(31, 9))} {
 		for i, part := range all {
 			public := encoded(t, point.Add(point.Mul(text(number), point.Base()), part))
 			for j := range all {
@@ -411,7 +399,7 @@ func TestVerifyKeyOtherwise(t *testing.T) {
 		right := encoded(t, key)
 		first := encoded(t, point.Base())
 		for i := range 20 {
-			s := sample(3, i)
+			s := sample.Text(3, i)
 			if value(right).Cmp(value(public)) == 0 {
 				t.Fatalf("%x is Encode of its point", public)
 			}
@@ -437,7 +425,7 @@ func TestVerifyNoKey(t *testing.T) {
 	count := 0
 	first := encoded(t, point.Base())
 	for i := range 64 {
-		public := sample(32, i)
+		public := sample.Text(32, i)
 		if i < 19 {
 			public = text(new(big.Int).Add(theP, big.NewInt(int64(i))))
 		}
@@ -459,12 +447,12 @@ func TestVerifyNoKey(t *testing.T) {
 
 // P6.2: the first half is held against Encode byte by byte: otherwise written, its point doesn't count. The key has a small point in it, so that any small point may be what is wanted.
 func TestVerifyFirstOtherwise(t *testing.T) {
-	number := value(sample(31, 10))
+	number := value(sample.Text(31, 10))
 	public := encoded(t, point.Add(point.Mul(text(number), point.Base()), small(t)[1]))
 	for first, p := range otherwise(t) {
 		place, fits := slices.Index(small(t), p), 0
 		for i := range 60 {
-			s := sample(4, i)
+			s := sample.Text(4, i)
 			k := factor(first, public, s)
 			second := new(big.Int).Mul(k, number)
 			if Verify(public, s, first+text(second.Mod(second, theL))) {
@@ -482,7 +470,7 @@ func TestVerifyFirstOtherwise(t *testing.T) {
 
 // P6.2: a key turned, or a second half turned, is another one.
 func TestVerifyTurned(t *testing.T) {
-	seed, s := sample(32, 11), "a text"
+	seed, s := sample.Text(32, 11), "a text"
 	sig := librarySign(seed, s)
 	key, _ := point.Decode(libraryKey(seed))
 	if Verify(encoded(t, point.Neg(key)), s, sig) || Verify(libraryKey(seed), s, sig[:32]+text(new(big.Int).Sub(theL, value(sig[32:])))) || Verify(libraryKey(seed), s, flipped(sig, 255)) {
@@ -499,7 +487,7 @@ func TestSigned(t *testing.T) {
 		if !ok || len(public) != 32 {
 			t.Fatalf("%x: the public key is %x, %v", seed, public, ok)
 		}
-		for _, s := range []string{"", "x", seed, public, sample(100+i, i), sample(1000, i)} {
+		for _, s := range []string{"", "x", seed, public, sample.Text(100+i, i), sample.Text(1000, i)} {
 			sig, ok := Sign(seed, s)
 			if !ok || !Verify(public, s, sig) || !ed25519.Verify([]byte(public), []byte(s), []byte(sig)) {
 				t.Errorf("%x, %x: not verified", seed, s)
@@ -513,9 +501,9 @@ func TestSigned(t *testing.T) {
 
 // P3: what is handed in is not written into, nor what stands behind it, nor kept; each answer is new memory.
 func TestTextsAreNotKept(t *testing.T) {
-	seed, s := sample(32, 12), sample(200, 12)
+	seed, s := sample.Text(32, 12), sample.Text(200, 12)
 	sig := librarySign(seed, s)
-	whole := seed + s + libraryKey(seed) + sig + sample(32, 13)
+	whole := seed + s + libraryKey(seed) + sig + sample.Text(32, 13)
 	memory := []byte(whole)
 	at := func(from, size int) string { return unsafe.String(&memory[from], size) }
 	public, _ := Public(at(0, 32))
@@ -542,7 +530,7 @@ func TestAtOneTime(t *testing.T) {
 	for i := range 8 {
 		wait.Go(func() {
 			for j := range 10 {
-				seed, s := sample(32, i*10+j), sample(50*j, i)
+				seed, s := sample.Text(32, i*10+j), sample.Text(50*j, i)
 				sig, ok := Sign(seed, s)
 				public, _ := Public(seed)
 				if sig != librarySign(seed, s) || !ok || public != libraryKey(seed) || !Verify(public, s, sig) || Verify(public, s+"x", sig) {
