@@ -1,6 +1,9 @@
 package inflate
 
-import "engrosser/api"
+import (
+	"engrosser/api"
+	"engrosser/blocks"
+)
 
 // unpacker keeps all that was said, for any of it may be said again.
 type unpacker struct {
@@ -18,12 +21,12 @@ blocks:
 		kind, ok2 := u.number(0, 2)
 		sayBlock := u.sayStored
 		switch {
-		case !ok || !ok2 || kind == 3:
+		case !ok || !ok2 || kind > blocks.Told:
 			e = api.ErrForm
 			break blocks
-		case kind == 1:
+		case kind == blocks.Fixed:
 			sayBlock = u.sayByFixedCodes
-		case kind == 2:
+		case kind == blocks.Told:
 			sayBlock = u.sayByToldCodes
 		}
 		e = sayBlock()
@@ -78,9 +81,9 @@ func (u *unpacker) sayBy(c codes) api.Errno {
 		switch {
 		case !ok:
 			return api.ErrForm
-		case symbol == blockEnd:
+		case symbol == blocks.End:
 			return api.OK
-		case symbol > blockEnd:
+		case symbol > blocks.End:
 			if e := u.sayAgain(symbol, c); e != api.OK {
 				return e
 			}

@@ -1,21 +1,10 @@
 package inflate
 
 import (
-	"slices"
-
 	"engrosser/api"
+	"engrosser/blocks"
 	"engrosser/huff"
 )
-
-// The symbols of which lengths are told that are no lengths: the last one again, and 0 some times, or many.
-const (
-	again     = 16
-	someZeros = 17
-	manyZeros = 18
-)
-
-// toldOrder is the order in which the code for lengths is told: what is seldom there comes last, for the end need not be told.
-var toldOrder = [19]int{again, someZeros, manyZeros, 0, 8, 7, 9, 6, 10, 5, 11, 4, 12, 3, 13, 2, 14, 1, 15}
 
 // codes are what a block is read by.
 type codes struct{ symbols, distances *huff.Code }
@@ -29,15 +18,14 @@ func newCodes(symbols, distances []int) (codes, bool) {
 
 // fixedCodes makes the codes of blocks that tell none.
 func fixedCodes() (codes, bool) {
-	symbols := slices.Concat(slices.Repeat([]int{8}, 144), slices.Repeat([]int{9}, 112), slices.Repeat([]int{7}, 24), slices.Repeat([]int{8}, 8))
-	return newCodes(symbols, slices.Repeat([]int{5}, 32))
+	return newCodes(blocks.FixedLengths())
 }
 
 // toldCodes reads the codes that a block tells; false, if they are none.
 func (r *reader) toldCodes() (codes, bool) {
-	symbols, ok := r.number(firstLength, 5)
-	distances, ok2 := r.number(1, 5)
-	if !ok || !ok2 || symbols > symbolsInAll || distances > distancesInAll {
+	symbols, ok := r.number(blocks.FewestSymbols, 5)
+	distances, ok2 := r.number(blocks.FewestDistances, 5)
+	if !ok || !ok2 || symbols > blocks.Symbols || distances > blocks.Distances {
 		return codes{}, false
 	}
 	c, ok := r.codeForLengths()
@@ -45,7 +33,7 @@ func (r *reader) toldCodes() (codes, bool) {
 		return codes{}, false
 	}
 	lengths, ok := r.lengths(c, symbols+distances)
-	if !ok || lengths[blockEnd] == 0 {
+	if !ok || lengths[blocks.End] == 0 {
 		return codes{}, false
 	}
 	return newCodes(lengths[:symbols], lengths[symbols:])
@@ -53,17 +41,18 @@ func (r *reader) toldCodes() (codes, bool) {
 
 // codeForLengths reads the code by which a block tells lengths; false, if it is none.
 func (r *reader) codeForLengths() (*huff.Code, bool) {
-	count, ok := r.number(4, 4)
+	count, ok := r.number(blocks.FewestTold, 4)
 	if !ok {
 		return nil, false
 	}
-	lengths := make([]int, len(toldOrder))
-	for i := range count {
+	order := blocks.Order()
+	lengths := make([]int, len(order))
+	for _, symbol := range order[:count] {
 		n, ok := r.number(0, 3)
 		if !ok {
 			return nil, false
 		}
-		lengths[toldOrder[i]] = n
+		lengths[symbol] = n
 	}
 	c, e := huff.New(lengths)
 	return c, e == api.OK
@@ -90,19 +79,16 @@ func (r *reader) someLengths(c *huff.Code, known []int) (length, times int, ok b
 	if !ok {
 		return 0, 0, false
 	}
-	switch symbol {
-	case again:
+	base, extra, several := blocks.Times(symbol)
+	if !several {
+		return symbol, 1, true
+	}
+	if symbol == blocks.Again {
 		if len(known) == 0 {
 			return 0, 0, false
 		}
 		length = known[len(known)-1]
-		times, ok = r.number(3, 2)
-	case someZeros:
-		times, ok = r.number(3, 3)
-	case manyZeros:
-		times, ok = r.number(11, 7)
-	default:
-		length, times = symbol, 1
 	}
+	times, ok = r.number(base, extra)
 	return length, times, ok
 }
