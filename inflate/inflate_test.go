@@ -12,6 +12,7 @@ import (
 	"unsafe"
 
 	"engrosser/api"
+	"engrosser/byhand"
 	"engrosser/sample"
 )
 
@@ -42,7 +43,7 @@ func checkWrong(t *testing.T, said int, bits ...string) {
 	all := strings.Join(bits, "")
 	for _, fill := range []string{"0", "1", "01", "0011", "011"} {
 		for _, n := range []int{0, 8, 200, 3000} {
-			s := packed(all+strings.Repeat(fill, n), fill[0])
+			s := byhand.Packed(all+strings.Repeat(fill, n), fill[0])
 			checkOpen(t, s, api.MaxOut, "", 0, api.ErrForm)
 			checkOpen(t, s, said, "", 0, api.ErrForm)
 			if said > 0 {
@@ -197,15 +198,15 @@ func TestStored(t *testing.T) {
 	for _, fill := range []string{"0", "1"} {
 		for _, n := range []int{0, 1, 2, 3, 255, 256, 257, 1000, 32767, 32768, 65534, 65535} {
 			s := sample.Text(n, 1)
-			checkRight(t, text(stored("", lastStored, fill, s)), s)
-			checkRight(t, text(stored(stored("", storedBlock, fill, s), lastStored, fill, "more")), s+"more")
+			checkRight(t, byhand.Text(byhand.Stored("", lastStored, fill, s)), s)
+			checkRight(t, byhand.Text(byhand.Stored(byhand.Stored("", storedBlock, fill, s), lastStored, fill, "more")), s+"more")
 		}
 		for ahead := range 16 {
 			// Each byte from 144 on has nine bits, and so moves the next block's beginning by one.
 			first := strings.Repeat("\xc8", ahead)
-			bits := fixedBlock + fixed.bytes(first) + fixed.end()
-			checkRight(t, text(stored(bits, lastStored, fill, "stored")), first+"stored")
-			checkRight(t, text(stored(bits, storedBlock, fill, "stored"), lastFixed, fixed.bytes("end"), fixed.end()), first+"storedend")
+			bits := fixedBlock + fixed.Bytes(first) + fixed.End()
+			checkRight(t, byhand.Text(byhand.Stored(bits, lastStored, fill, "stored")), first+"stored")
+			checkRight(t, byhand.Text(byhand.Stored(bits, storedBlock, fill, "stored"), lastFixed, fixed.Bytes("end"), fixed.End()), first+"storedend")
 		}
 	}
 }
@@ -215,10 +216,10 @@ func TestFixedBytes(t *testing.T) {
 	all := ""
 	for i := range 256 {
 		s := string([]byte{byte(i)})
-		checkRight(t, text(lastFixed, fixed.bytes(s), fixed.end()), s)
+		checkRight(t, byhand.Text(lastFixed, fixed.Bytes(s), fixed.End()), s)
 		all += s
 	}
-	checkRight(t, text(lastFixed, fixed.bytes(all), fixed.end()), all)
+	checkRight(t, byhand.Text(lastFixed, fixed.Bytes(all), fixed.End()), all)
 }
 
 // saidAgain answers s, and so many bytes from so far back behind it.
@@ -235,12 +236,12 @@ func TestSayLengths(t *testing.T) {
 	first := sample.Text(300, 2)
 	for size := 3; size <= 258; size++ {
 		for _, back := range []int{1, 2, 3, 4, 5, 7, 255, 299, 300} {
-			checkRight(t, text(lastFixed, fixed.bytes(first), fixed.again(size, back), fixed.end()), saidAgain(first, size, back))
+			checkRight(t, byhand.Text(lastFixed, fixed.Bytes(first), fixed.Again(size, back), fixed.End()), saidAgain(first, size, back))
 		}
 	}
 	// Symbol 284 with all its bits more says the greatest length, too.
-	greatest := fixed.symbols[284] + number(31, 5) + fixed.distances[2]
-	checkRight(t, text(lastFixed, fixed.bytes("abc"), greatest, fixed.end()), saidAgain("abc", 258, 3))
+	greatest := fixed.Symbols[284] + byhand.Number(31, 5) + fixed.Distances[2]
+	checkRight(t, byhand.Text(lastFixed, fixed.Bytes("abc"), greatest, fixed.End()), saidAgain("abc", 258, 3))
 }
 
 // P10.2: each distance up to 32768, back into a block ahead.
@@ -249,15 +250,15 @@ func TestSayDistances(t *testing.T) {
 	want := []byte(first)
 	p := fixed
 	var bits strings.Builder
-	bits.WriteString(stored("", storedBlock, "0", first) + lastFixed)
+	bits.WriteString(byhand.Stored("", storedBlock, "0", first) + lastFixed)
 	for back := 1; back <= 32768; back++ {
-		bits.WriteString(p.again(3, back))
+		bits.WriteString(p.Again(3, back))
 		for range 3 {
 			want = append(want, want[len(want)-back])
 		}
 	}
-	bits.WriteString(p.end())
-	checkRight(t, text(bits.String()), string(want))
+	bits.WriteString(p.End())
+	checkRight(t, byhand.Text(bits.String()), string(want))
 }
 
 // lengthsOf answers so many lengths, 0 but for some.
@@ -270,26 +271,26 @@ func lengthsOf(count int, some map[int]int) []int {
 }
 
 // toldBy answers what stands in a block of kind 2 ahead of its text, and the packer of that.
-func toldBy(some map[int]int, back ...int) (string, packer) {
+func toldBy(some map[int]int, back ...int) (string, byhand.Packer) {
 	count := 257
 	for i := range some {
 		count = max(count, i+1)
 	}
 	lengths := lengthsOf(count, some)
-	return headOf(lengths, back), packerOf(lengths, back)
+	return byhand.HeadOf(lengths, back), byhand.New(lengths, back)
 }
 
 // P10.2: a block says again what others said ahead of it, of each kind.
 func TestBlocksGoOn(t *testing.T) {
 	head, told := toldBy(map[int]int{'c': 2, 256: 2, 257: 2, 258: 2}, 1, 1)
 	p := fixed
-	bits := stored("", storedBlock, "0", "ab") + fixedBlock + p.again(3, 2) + p.end()
-	bits += toldBlock + head + told.bytes("c") + told.again(4, 2) + told.again(3, 1) + told.end()
+	bits := byhand.Stored("", storedBlock, "0", "ab") + fixedBlock + p.Again(3, 2) + p.End()
+	bits += toldBlock + head + told.Bytes("c") + told.Again(4, 2) + told.Again(3, 1) + told.End()
 	want := saidAgain(saidAgain(saidAgain("ab", 3, 2)+"c", 4, 2), 3, 1)
-	bits = stored(bits, storedBlock, "1", "d") + fixedBlock + p.again(14, 14) + p.end()
+	bits = byhand.Stored(bits, storedBlock, "1", "d") + fixedBlock + p.Again(14, 14) + p.End()
 	want = saidAgain(want+"d", 14, 14)
-	bits += lastTold + head + told.again(4, 1) + told.end()
-	checkRight(t, text(bits), saidAgain(want, 4, 1))
+	bits += lastTold + head + told.Again(4, 1) + told.End()
+	checkRight(t, byhand.Text(bits), saidAgain(want, 4, 1))
 }
 
 // evenRuns are lengths of the code for lengths, of which each one has a code.
@@ -299,39 +300,39 @@ func evenRuns() []int { return append(repeated(4, 13), repeated(5, 6)...) }
 func expanded(runs []run) []int {
 	var lengths []int
 	for _, r := range runs {
-		switch r.symbol {
+		switch r[0] {
 		case 16:
-			lengths = append(lengths, repeated(lengths[len(lengths)-1], 3+r.value)...)
+			lengths = append(lengths, repeated(lengths[len(lengths)-1], 3+r[1])...)
 		case 17:
-			lengths = append(lengths, repeated(0, 3+r.value)...)
+			lengths = append(lengths, repeated(0, 3+r[1])...)
 		case 18:
-			lengths = append(lengths, repeated(0, 11+r.value)...)
+			lengths = append(lengths, repeated(0, 11+r[1])...)
 		default:
-			lengths = append(lengths, r.symbol)
+			lengths = append(lengths, r[0])
 		}
 	}
 	return lengths
 }
 
 // all answers what says all that has a code: each byte, each length at each distance, as far as that many bytes were said, and the end; and what that is.
-func (p packer) all(ahead string) (bits, want string) {
+func all(p byhand.Packer, ahead string) (bits, want string) {
 	want = ahead
-	for i, code := range p.symbols[:256] {
+	for i, code := range p.Symbols[:256] {
 		if code != "" {
 			bits, want = bits+code, want+string([]byte{byte(i)})
 		}
 	}
-	for i, code := range p.symbols[257:] {
-		for j, distance := range p.distances {
+	for i, code := range p.Symbols[257:] {
+		for j, distance := range p.Distances {
 			size, back := wordsLengths[i], wordsDistances[j]
 			if code == "" || distance == "" || back[0] > len(want) {
 				continue
 			}
-			bits += code + number(0, size[1]) + distance + number(0, back[1])
+			bits += code + byhand.Number(0, size[1]) + distance + byhand.Number(0, back[1])
 			want = saidAgain(want, size[0], back[0])
 		}
 	}
-	return bits + p.end(), want
+	return bits + p.End(), want
 }
 
 // checkTold: lengths that are told by such runs are taken, and what is packed by them is opened.
@@ -341,12 +342,12 @@ func checkTold(t *testing.T, symbols, distances int, runs ...run) {
 	if len(lengths) != symbols+distances {
 		t.Fatalf("%v: %d lengths", runs, len(lengths))
 	}
-	bits, want := packerOf(lengths[:symbols], lengths[symbols:]).all("some")
-	checkRight(t, text(stored("", storedBlock, "0", "some"), lastTold, head(symbols, distances, evenRuns(), 19, runs), bits), want)
+	bits, want := all(byhand.New(lengths[:symbols], lengths[symbols:]), "some")
+	checkRight(t, byhand.Text(byhand.Stored("", storedBlock, "0", "some"), lastTold, byhand.Head(symbols, distances, evenRuns(), 19, runs), bits), want)
 }
 
 // zeros answers runs that tell so many zeros.
-func zeros(n int) []run { return runsOf(repeated(0, n)) }
+func zeros(n int) []run { return byhand.Runs(repeated(0, n)) }
 
 // P10.2: lengths that are told again, and zeros, as few as may be and as many.
 func TestRuns(t *testing.T) {
@@ -387,7 +388,7 @@ func TestToldCounts(t *testing.T) {
 			if symbols <= 286 && distances <= 30 {
 				checkTold(t, symbols, distances, runs...)
 			} else {
-				checkWrong(t, 0, lastTold, head(symbols, distances, evenRuns(), 19, runs))
+				checkWrong(t, 0, lastTold, byhand.Head(symbols, distances, evenRuns(), 19, runs))
 			}
 		}
 	}
@@ -409,49 +410,49 @@ func TestToldOrder(t *testing.T) {
 		if !areCode(lengths) {
 			t.Fatal(lengths)
 		}
-		told, count := headOf(lengths, []int{0}), 4
+		told, count := byhand.HeadOf(lengths, []int{0}), 4
 		for i := range 4 {
 			count += int(told[10+i]-'0') << i
 		}
 		counts = append(counts, count)
-		bits, want := packerOf(lengths, []int{0}).all("")
-		checkRight(t, text(lastTold, told, bits), want)
+		bits, want := all(byhand.New(lengths, []int{0}), "")
+		checkRight(t, byhand.Text(lastTold, told, bits), want)
 	}
 	if !slices.Equal(counts, []int{5, 6, 7, 8, 9, 10, 11, 12, 13, 14, 15, 16, 17, 18, 19}) {
 		t.Errorf("so many lengths were told: %v", counts)
 	}
 	// Four tell no length but 0.
-	checkWrong(t, 0, lastTold, head(257, 1, []int{0: 2, 18: 2, 17: 2, 16: 2}, 4, zeros(258)))
+	checkWrong(t, 0, lastTold, byhand.Head(257, 1, []int{0: 2, 18: 2, 17: 2, 16: 2}, 4, zeros(258)))
 }
 
 // P10.2: one code alone, of one bit, may be that of symbols, or of distances; distances may have none, if none is asked for.
 func TestOneCode(t *testing.T) {
 	for _, back := range [][]int{{0}, {1}, {0, 0, 0}, {0, 1}, repeated(0, 30), append(repeated(0, 29), 1)} {
 		told, p := toldBy(map[int]int{256: 1}, back...)
-		checkRight(t, text(lastTold, told, p.end()), "")
+		checkRight(t, byhand.Text(lastTold, told, p.End()), "")
 		checkWrong(t, 0, lastTold, told, "1")
 	}
 	for at := range 4 {
 		told, p := toldBy(map[int]int{'a': 1, 256: 2, 257: 2}, append(repeated(0, at), 1)...)
-		checkRight(t, text(lastTold, told, p.bytes("aaaa"), p.again(3, at+1), p.end()), "aaaaaaa")
-		checkWrong(t, 4, lastTold, told, p.bytes("aaaa"), p.symbols[257], "1")
+		checkRight(t, byhand.Text(lastTold, told, p.Bytes("aaaa"), p.Again(3, at+1), p.End()), "aaaaaaa")
+		checkWrong(t, 4, lastTold, told, p.Bytes("aaaa"), p.Symbols[257], "1")
 	}
 	for n := range 30 {
 		told, p := toldBy(map[int]int{'a': 1, 256: 2, 257: 2}, repeated(0, n+1)...)
-		checkRight(t, text(lastTold, told, p.bytes("aaaa"), p.end()), "aaaa")
-		checkWrong(t, 4, lastTold, told, p.bytes("aaaa"), p.symbols[257])
+		checkRight(t, byhand.Text(lastTold, told, p.Bytes("aaaa"), p.End()), "aaaa")
+		checkWrong(t, 4, lastTold, told, p.Bytes("aaaa"), p.Symbols[257])
 	}
 }
 
 // P10.3: codes that leave bits which begin with none, or that are too many: of lengths, of symbols, of distances.
 func TestNoCodes(t *testing.T) {
 	runs := slices.Concat([]run{{1, 0}}, zeros(255), []run{{1, 0}, {1, 0}}) // 1 and 18 alone
-	checkOpen(t, text(lastTold, head(257, 1, lengthsOf(19, map[int]int{1: 1, 18: 1}), 19, runs), "1"), 0, "", 12, api.OK)
+	checkOpen(t, byhand.Text(lastTold, byhand.Head(257, 1, lengthsOf(19, map[int]int{1: 1, 18: 1}), 19, runs), "1"), 0, "", 12, api.OK)
 	for _, wrong := range []map[int]int{
 		{}, {1: 2, 18: 2}, {1: 1, 18: 2}, {1: 2, 18: 1}, {1: 3, 18: 3}, {1: 7, 18: 7}, {1: 1, 18: 7}, {1: 2, 18: 2, 0: 2}, {1: 1, 18: 2, 0: 3}, {1: 2}, {18: 7},
 		{1: 1, 18: 1, 0: 1}, {1: 1, 18: 1, 0: 7}, {1: 2, 18: 2, 0: 2, 2: 2, 3: 7}, {1: 1, 18: 2, 0: 2, 2: 2},
 	} {
-		checkWrong(t, 0, lastTold, head(257, 1, lengthsOf(19, wrong), 19, runs))
+		checkWrong(t, 0, lastTold, byhand.Head(257, 1, lengthsOf(19, wrong), 19, runs))
 	}
 	for _, wrong := range []map[int]int{{256: 2}, {256: 15}, {'a': 2, 256: 2}, {'a': 1, 256: 2}, {'a': 1, 'b': 3, 256: 3}, {'a': 1, 'b': 1, 256: 1}, {'a': 1, 'b': 1, 256: 15}, {'a': 1, 'b': 2, 'c': 2, 256: 2}, {'a': 1, 256: 2, 257: 3}, {256: 1, 257: 1, 285: 1}, {256: 1, 285: 2}} {
 		for _, back := range [][]int{{0}, {1}, {1, 1}} {
@@ -461,18 +462,18 @@ func TestNoCodes(t *testing.T) {
 	}
 	for _, wrong := range [][]int{{2}, {15}, {0, 3}, {2, 2}, {1, 2}, {2, 2, 2}, {1, 3, 3}, {1, 1, 1}, {1, 1, 15}, {2, 2, 2, 2, 2}, repeated(5, 30), append(repeated(0, 29), 2)} {
 		told, p := toldBy(map[int]int{'a': 1, 256: 1}, wrong...)
-		checkWrong(t, 0, lastTold, told, p.end())
+		checkWrong(t, 0, lastTold, told, p.End())
 	}
 	// They are asked of both, though no distance is asked for.
 	told, p := toldBy(map[int]int{'a': 1, 256: 1}, repeated(4, 16)...)
-	checkRight(t, text(lastTold, told, p.bytes("a"), p.end()), "a")
+	checkRight(t, byhand.Text(lastTold, told, p.Bytes("a"), p.End()), "a")
 }
 
 // P10.3: the last length is told again ahead of any.
 func TestNothingAgain(t *testing.T) {
 	for value := range 4 {
-		checkWrong(t, 0, lastTold, head(257, 1, evenRuns(), 19, slices.Concat([]run{{16, value}}, zeros(253-value-1), []run{{1, 0}, {1, 0}, {1, 0}})))
-		checkWrong(t, 0, lastTold, head(257, 1, evenRuns(), 19, []run{{16, value}}))
+		checkWrong(t, 0, lastTold, byhand.Head(257, 1, evenRuns(), 19, slices.Concat([]run{{16, value}}, zeros(253-value-1), []run{{1, 0}, {1, 0}, {1, 0}})))
+		checkWrong(t, 0, lastTold, byhand.Head(257, 1, evenRuns(), 19, []run{{16, value}}))
 	}
 }
 
@@ -482,13 +483,13 @@ func TestTooManyLengths(t *testing.T) {
 	for value := range 4 {
 		steep := slices.Concat(zeros(256), []run{{1, 0}, {0, 0}})
 		checkTold(t, 257, 4+value, append(steep, run{16, value})...)
-		checkWrong(t, 0, lastTold, head(257, 3+value, evenRuns(), 19, append(steep, run{16, value})))
-		checkWrong(t, 0, lastTold, head(257, 2, evenRuns(), 19, append(steep, run{16, value})))
+		checkWrong(t, 0, lastTold, byhand.Head(257, 3+value, evenRuns(), 19, append(steep, run{16, value})))
+		checkWrong(t, 0, lastTold, byhand.Head(257, 2, evenRuns(), 19, append(steep, run{16, value})))
 	}
 	for value := range 8 {
 		checkTold(t, 257, 3+value, append(begin, run{17, value})...)
-		checkWrong(t, 0, lastTold, head(257, 2+value, evenRuns(), 19, append(begin, run{17, value})))
-		checkWrong(t, 0, lastTold, head(257, 1, evenRuns(), 19, append(begin, run{17, value})))
+		checkWrong(t, 0, lastTold, byhand.Head(257, 2+value, evenRuns(), 19, append(begin, run{17, value})))
+		checkWrong(t, 0, lastTold, byhand.Head(257, 1, evenRuns(), 19, append(begin, run{17, value})))
 	}
 	for value := range 128 {
 		if value+11 <= 29+30 {
@@ -496,9 +497,9 @@ func TestTooManyLengths(t *testing.T) {
 			checkTold(t, symbols, 257+value+11-symbols, append(begin, run{18, value})...)
 		}
 		if value+10 <= 30 {
-			checkWrong(t, 0, lastTold, head(257, value+10, evenRuns(), 19, append(begin, run{18, value})))
+			checkWrong(t, 0, lastTold, byhand.Head(257, value+10, evenRuns(), 19, append(begin, run{18, value})))
 		}
-		checkWrong(t, 0, lastTold, head(257, 1, evenRuns(), 19, append(begin, run{18, value})))
+		checkWrong(t, 0, lastTold, byhand.Head(257, 1, evenRuns(), 19, append(begin, run{18, value})))
 	}
 }
 
@@ -508,7 +509,7 @@ func TestNoEnd(t *testing.T) {
 		for _, back := range [][]int{{0}, {1}, {1, 1}, {0, 0, 1}} {
 			told, _ := toldBy(some, back...)
 			checkWrong(t, 0, lastTold, told)
-			checkWrong(t, 2, stored("", storedBlock, "0", "ab"), lastTold, told)
+			checkWrong(t, 2, byhand.Stored("", storedBlock, "0", "ab"), lastTold, told)
 		}
 	}
 }
@@ -518,15 +519,15 @@ func TestSymbolsThatAreNone(t *testing.T) {
 	p := fixed
 	for _, ahead := range []string{"", sample.Text(200, 1)} {
 		for _, symbol := range []int{286, 287} {
-			checkWrong(t, len(ahead), lastFixed, p.bytes(ahead), p.symbols[symbol])
+			checkWrong(t, len(ahead), lastFixed, p.Bytes(ahead), p.Symbols[symbol])
 		}
 		for _, distance := range []int{30, 31} {
-			checkWrong(t, len(ahead), lastFixed, p.bytes(ahead), p.symbols[257], p.distances[distance])
+			checkWrong(t, len(ahead), lastFixed, p.Bytes(ahead), p.Symbols[257], p.Distances[distance])
 		}
 	}
 	long := sample.Text(40000, 1)
 	for _, distance := range []int{30, 31} {
-		checkWrong(t, len(long), stored("", storedBlock, "0", long), lastFixed, p.symbols[285], p.distances[distance])
+		checkWrong(t, len(long), byhand.Stored("", storedBlock, "0", long), lastFixed, p.Symbols[285], p.Distances[distance])
 	}
 }
 
@@ -536,55 +537,55 @@ func TestTooFarBack(t *testing.T) {
 	p := fixed
 	for n := 1; n <= 70; n++ {
 		s := sample.Text(n, 1)
-		for _, ahead := range []string{fixedBlock + p.bytes(s) + p.end(), stored("", storedBlock, "0", s), stored(fixedBlock+p.bytes(s[:n/2])+p.end(), storedBlock, "0", s[n/2:])} {
-			checkRight(t, text(ahead, lastFixed, p.again(5, n), p.end()), saidAgain(s, 5, n))
+		for _, ahead := range []string{fixedBlock + p.Bytes(s) + p.End(), byhand.Stored("", storedBlock, "0", s), byhand.Stored(fixedBlock+p.Bytes(s[:n/2])+p.End(), storedBlock, "0", s[n/2:])} {
+			checkRight(t, byhand.Text(ahead, lastFixed, p.Again(5, n), p.End()), saidAgain(s, 5, n))
 			for _, back := range []int{n + 1, n + 2, 2 * n, 100, 32768} {
 				if back > n {
-					checkWrong(t, n, ahead, lastFixed, p.again(5, back), p.end())
+					checkWrong(t, n, ahead, lastFixed, p.Again(5, back), p.End())
 				}
 			}
 		}
 		// What a block said itself counts, too.
-		checkRight(t, text(lastFixed, p.bytes(s), p.again(3, n), p.again(3, n+3), p.end()), saidAgain(saidAgain(s, 3, n), 3, n+3))
-		checkWrong(t, n+3, lastFixed, p.bytes(s), p.again(3, n), p.again(3, n+4), p.end())
+		checkRight(t, byhand.Text(lastFixed, p.Bytes(s), p.Again(3, n), p.Again(3, n+3), p.End()), saidAgain(saidAgain(s, 3, n), 3, n+3))
+		checkWrong(t, n+3, lastFixed, p.Bytes(s), p.Again(3, n), p.Again(3, n+4), p.End())
 	}
-	checkWrong(t, 0, lastFixed, p.again(3, 1), p.end())
-	checkWrong(t, 0, stored("", storedBlock, "0", ""), lastFixed, p.again(258, 1), p.end())
+	checkWrong(t, 0, lastFixed, p.Again(3, 1), p.End())
+	checkWrong(t, 0, byhand.Stored("", storedBlock, "0", ""), lastFixed, p.Again(258, 1), p.End())
 	for _, n := range []int{32767, 32766, 24577, 24576} {
 		s := sample.Text(n, 1)
-		checkRight(t, text(stored("", storedBlock, "0", s), lastFixed, p.again(9, n), p.end()), saidAgain(s, 9, n))
-		checkWrong(t, n, stored("", storedBlock, "0", s), lastFixed, p.again(9, n+1), p.end())
+		checkRight(t, byhand.Text(byhand.Stored("", storedBlock, "0", s), lastFixed, p.Again(9, n), p.End()), saidAgain(s, 9, n))
+		checkWrong(t, n, byhand.Stored("", storedBlock, "0", s), lastFixed, p.Again(9, n+1), p.End())
 	}
 }
 
 // P10.3: blocks of kind 3, wherever they stand, though what stands in them be that of another kind.
 func TestKindThree(t *testing.T) {
 	head, p := toldBy(map[int]int{'a': 1, 256: 1}, 0)
-	for said, ahead := range []string{"", fixedBlock + fixed.bytes("a") + fixed.end(), stored("", storedBlock, "0", "ab"), toldBlock + head + p.bytes("aaa") + p.end()} {
+	for said, ahead := range []string{"", fixedBlock + fixed.Bytes("a") + fixed.End(), byhand.Stored("", storedBlock, "0", "ab"), toldBlock + head + p.Bytes("aaa") + p.End()} {
 		for _, begin := range []string{wrongBlock, lastWrong} {
 			checkWrong(t, said, ahead, begin)
 			for _, s := range []string{"", "some"} {
-				checkWrong(t, said, stored(ahead, begin, "0", s))
-				checkWrong(t, said, ahead, begin, fixed.bytes(s), fixed.end())
+				checkWrong(t, said, byhand.Stored(ahead, begin, "0", s))
+				checkWrong(t, said, ahead, begin, fixed.Bytes(s), fixed.End())
 			}
-			checkWrong(t, said, ahead, begin, head, p.bytes("a"), p.end())
+			checkWrong(t, said, ahead, begin, head, p.Bytes("a"), p.End())
 		}
 	}
 	// Behind the last block anything may stand.
-	checkOpen(t, text(lastFixed, fixed.bytes("a"), fixed.end(), lastWrong), 9, "a", 3, api.OK)
+	checkOpen(t, byhand.Text(lastFixed, fixed.Bytes("a"), fixed.End(), lastWrong), 9, "a", 3, api.OK)
 }
 
 // P10.3: a number behind N that is wrong in some bits.
 func TestStoredNumber(t *testing.T) {
 	for _, n := range []int{0, 1, 3, 255, 256, 0x5555} {
-		s := []byte(text(stored("", lastStored, "0", sample.Text(n, 1))))
+		s := []byte(byhand.Text(byhand.Stored("", lastStored, "0", sample.Text(n, 1))))
 		for bit := 8; bit < 40; bit++ {
 			s[bit/8] ^= 1 << (bit % 8)
-			checkWrong(t, 0, bitsOf(string(s)))
+			checkWrong(t, 0, byhand.Bits(string(s)))
 			s[bit/8] ^= 1 << (bit % 8)
 		}
 		same := append([]byte{1, byte(n), byte(n >> 8), byte(n), byte(n >> 8)}, s[5:]...)
-		checkWrong(t, 0, bitsOf(string(same)))
+		checkWrong(t, 0, byhand.Bits(string(same)))
 		checkRight(t, string(s), sample.Text(n, 1))
 	}
 }
@@ -595,7 +596,7 @@ func TestEndsTooEarly(t *testing.T) {
 	all := []string{"\x03\x00", "\x00\x00\x00\xff\xff\x03\x00", "\x4b\x4c\x4a\x06\x00"}
 	for _, s := range someTexts() {
 		for kind := range 3 {
-			packed, _ := wordsPack(s[:min(len(s), 1000)], 300, kind)
+			packed, _ := byhand.Pack(s[:min(len(s), 1000)], 300, kind)
 			all = append(all, packed)
 		}
 		all = append(all, libraryPacked(t, s[:min(len(s), 1000)], flate.BestCompression, 400))
@@ -616,7 +617,7 @@ func TestStoredRoom(t *testing.T) {
 	for size := range 12 {
 		for there := range len(bytes) {
 			for most := range 14 {
-				s := text(lastStored, "00000", number(size, 16), number(65535-size, 16), bitsOf(bytes[:there]))
+				s := byhand.Text(lastStored, "00000", byhand.Number(size, 16), byhand.Number(65535-size, 16), byhand.Bits(bytes[:there]))
 				switch {
 				case there >= size && most >= size:
 					checkOpen(t, s, most, bytes[:size], 5+size, api.OK)
@@ -628,61 +629,61 @@ func TestStoredRoom(t *testing.T) {
 			}
 		}
 	}
-	checkOpen(t, text(lastStored, "00000", number(9, 16), number(65534-9, 16), bitsOf(bytes)), 0, "", 0, api.ErrForm)
-	checkOpen(t, text(lastStored, "00000", number(9, 16), number(65535-9, 12)), 0, "", 0, api.ErrForm)
+	checkOpen(t, byhand.Text(lastStored, "00000", byhand.Number(9, 16), byhand.Number(65534-9, 16), byhand.Bits(bytes)), 0, "", 0, api.ErrForm)
+	checkOpen(t, byhand.Text(lastStored, "00000", byhand.Number(9, 16), byhand.Number(65535-9, 12)), 0, "", 0, api.ErrForm)
 }
 
 // P10.3: of more bytes than may be said, and of what else is wrong, the first one that is met is told.
 func TestFirstFault(t *testing.T) {
 	p := fixed
-	five := fixedBlock + p.bytes("abcde")
+	five := fixedBlock + p.Bytes("abcde")
 	for _, c := range []struct {
 		bits string
 		most int
 		e    api.Errno
 	}{
-		{five + p.bytes("f"), 5, api.ErrLong}, {five + p.bytes("f"), 4, api.ErrLong}, {five + p.bytes("f") + p.symbols[286], 5, api.ErrLong},
-		{five + p.symbols[286], 5, api.ErrForm}, {five + p.symbols[286], 4, api.ErrLong}, {five + p.symbols[286] + p.bytes("f"), 5, api.ErrForm},
-		{five + p.again(3, 5), 7, api.ErrLong}, {five + p.again(3, 5), 5, api.ErrLong}, {five + p.again(258, 1), 262, api.ErrLong},
-		{five + p.again(3, 6), 5, api.ErrForm}, {five + p.again(3, 6), 0, api.ErrLong}, {five + p.again(3, 6), 4, api.ErrLong}, {fixedBlock + p.again(3, 1), 0, api.ErrForm},
-		{five + p.symbols[257] + p.distances[30], 5, api.ErrForm}, {five + p.symbols[257] + p.distances[30], 6, api.ErrForm},
-		{five + p.again(3, 5) + p.symbols[287], 7, api.ErrLong}, {five + p.again(3, 5) + p.symbols[287], 8, api.ErrForm},
-		{five + p.end() + lastWrong, 5, api.ErrForm}, {five + p.end() + lastWrong, 4, api.ErrLong},
-		{five + p.end() + lastFixed + p.bytes("f") + p.end(), 5, api.ErrLong}, {stored(five+p.end(), lastStored, "0", "f"), 5, api.ErrLong},
-		{lastWrong, 0, api.ErrForm}, {stored("", storedBlock, "0", "f") + lastWrong, 0, api.ErrLong},
+		{five + p.Bytes("f"), 5, api.ErrLong}, {five + p.Bytes("f"), 4, api.ErrLong}, {five + p.Bytes("f") + p.Symbols[286], 5, api.ErrLong},
+		{five + p.Symbols[286], 5, api.ErrForm}, {five + p.Symbols[286], 4, api.ErrLong}, {five + p.Symbols[286] + p.Bytes("f"), 5, api.ErrForm},
+		{five + p.Again(3, 5), 7, api.ErrLong}, {five + p.Again(3, 5), 5, api.ErrLong}, {five + p.Again(258, 1), 262, api.ErrLong},
+		{five + p.Again(3, 6), 5, api.ErrForm}, {five + p.Again(3, 6), 0, api.ErrLong}, {five + p.Again(3, 6), 4, api.ErrLong}, {fixedBlock + p.Again(3, 1), 0, api.ErrForm},
+		{five + p.Symbols[257] + p.Distances[30], 5, api.ErrForm}, {five + p.Symbols[257] + p.Distances[30], 6, api.ErrForm},
+		{five + p.Again(3, 5) + p.Symbols[287], 7, api.ErrLong}, {five + p.Again(3, 5) + p.Symbols[287], 8, api.ErrForm},
+		{five + p.End() + lastWrong, 5, api.ErrForm}, {five + p.End() + lastWrong, 4, api.ErrLong},
+		{five + p.End() + lastFixed + p.Bytes("f") + p.End(), 5, api.ErrLong}, {byhand.Stored(five+p.End(), lastStored, "0", "f"), 5, api.ErrLong},
+		{lastWrong, 0, api.ErrForm}, {byhand.Stored("", storedBlock, "0", "f") + lastWrong, 0, api.ErrLong},
 	} {
-		checkOpen(t, text(c.bits, strings.Repeat("1", 40)), c.most, "", 0, c.e)
+		checkOpen(t, byhand.Text(c.bits, strings.Repeat("1", 40)), c.most, "", 0, c.e)
 	}
 	// The text ends within a length or a distance: that is met ahead of the first byte that they say.
 	for n := 5; n < 13; n++ {
 		said := strings.Repeat("\xc8", n)
-		begin := fixedBlock + p.bytes(said)
-		whole := begin + p.again(200, 5)
+		begin := fixedBlock + p.Bytes(said)
+		whole := begin + p.Again(200, 5)
 		for cut := len(begin); cut < len(whole); cut++ {
 			if cut%8 == 0 {
-				checkOpen(t, text(whole[:cut]), n, "", 0, api.ErrForm)
-				checkOpen(t, text(whole[:cut]), n-1, "", 0, api.ErrLong)
+				checkOpen(t, byhand.Text(whole[:cut]), n, "", 0, api.ErrForm)
+				checkOpen(t, byhand.Text(whole[:cut]), n-1, "", 0, api.ErrLong)
 			}
 		}
-		checkOpen(t, text(whole), n, "", 0, api.ErrLong)
+		checkOpen(t, byhand.Text(whole), n, "", 0, api.ErrLong)
 	}
 	// Where there is no room left, blocks that say nothing are none too many.
-	nothing := five + p.end() + fixedBlock + p.end()
-	nothing = stored(stored(nothing, storedBlock, "1", ""), lastStored, "1", "")
-	checkOpen(t, text(nothing), 5, "abcde", len(nothing)/8, api.OK)
+	nothing := five + p.End() + fixedBlock + p.End()
+	nothing = byhand.Stored(byhand.Stored(nothing, storedBlock, "1", ""), lastStored, "1", "")
+	checkOpen(t, byhand.Text(nothing), 5, "abcde", len(nothing)/8, api.OK)
 }
 
 // P10.2: as many bytes as may be unpacked at all, and one more.
 func TestMostOfAll(t *testing.T) {
 	p := fixed
 	var bits strings.Builder
-	bits.WriteString(lastFixed + p.bytes("zz"))
+	bits.WriteString(lastFixed + p.Bytes("zz"))
 	for range (1<<20 - 2) / 258 {
-		bits.WriteString(p.again(258, 2))
+		bits.WriteString(p.Again(258, 2))
 	}
-	bits.WriteString(p.again((1<<20-2)%258, 1))
-	checkRight(t, text(bits.String(), p.end()), strings.Repeat("z", 1<<20))
-	checkOpen(t, text(bits.String(), p.bytes("z"), p.end()), 1<<20, "", 0, api.ErrLong)
+	bits.WriteString(p.Again((1<<20-2)%258, 1))
+	checkRight(t, byhand.Text(bits.String(), p.End()), strings.Repeat("z", 1<<20))
+	checkOpen(t, byhand.Text(bits.String(), p.Bytes("z"), p.End()), 1<<20, "", 0, api.ErrLong)
 	all := sample.Text(1<<20, 1)
 	s := libraryPacked(t, all, flate.NoCompression, len(all))
 	checkRight(t, s, all)
@@ -693,11 +694,11 @@ func TestMostOfAll(t *testing.T) {
 // P10.2: many blocks that say nothing, of each kind.
 func TestManyBlocks(t *testing.T) {
 	head, p := toldBy(map[int]int{256: 1}, 0)
-	for _, block := range []string{fixedBlock + fixed.end(), toldBlock + head + p.end(), stored("", storedBlock, "0", "")} {
+	for _, block := range []string{fixedBlock + fixed.End(), toldBlock + head + p.End(), byhand.Stored("", storedBlock, "0", "")} {
 		for len(block)%8 != 0 {
 			block += block
 		}
-		s := strings.Repeat(text(block), 400000/len(block))
+		s := strings.Repeat(byhand.Text(block), 400000/len(block))
 		checkRight(t, s+"\x03\x00", "")
 		checkOpen(t, s, 0, "", 0, api.ErrForm)
 	}
@@ -728,7 +729,7 @@ func TestOpenTurned(t *testing.T) {
 	for i, s := range someTexts() {
 		s = s[:min(len(s), 90)]
 		for kind := range 3 {
-			p, _ := wordsPack(s, 50, kind)
+			p, _ := byhand.Pack(s, 50, kind)
 			b := []byte(p)
 			for bit := range 8 * len(b) {
 				b[bit/8] ^= 1 << (bit % 8)
@@ -750,11 +751,11 @@ func TestOpenTurned(t *testing.T) {
 func TestOpenAny(t *testing.T) {
 	t.Parallel()
 	head, p := toldBy(map[int]int{'a': 2, 'b': 3, 'c': 3, 256: 4, 257: 4, 260: 2, 270: 3}, 2, 2, 2, 3, 0, 3)
-	checkRight(t, text(lastTold, head, p.bytes("abc"), p.end()), "abc")
+	checkRight(t, byhand.Text(lastTold, head, p.Bytes("abc"), p.End()), "abc")
 	for i := range 1500 {
-		bits := bitsOf(sample.Text(i%200, i))
-		for _, begin := range []string{"", storedBlock, fixedBlock, toldBlock, toldBlock + head, fixedBlock + fixed.bytes("some"), lastTold + number(1, 5) + number(1, 5) + number(15, 4) + strings.Repeat(number(4, 3), 13) + strings.Repeat(number(5, 3), 6)} {
-			checkWords(t, text(begin, bits))
+		bits := byhand.Bits(sample.Text(i%200, i))
+		for _, begin := range []string{"", storedBlock, fixedBlock, toldBlock, toldBlock + head, fixedBlock + fixed.Bytes("some"), lastTold + byhand.Number(1, 5) + byhand.Number(1, 5) + byhand.Number(15, 4) + strings.Repeat(byhand.Number(4, 3), 13) + strings.Repeat(byhand.Number(5, 3), 6)} {
+			checkWords(t, byhand.Text(begin, bits))
 		}
 	}
 	for i := range 1 << 16 {
@@ -767,11 +768,11 @@ func TestPackedIsOpened(t *testing.T) {
 	t.Parallel()
 	var kinds [3]int
 	for _, s := range someTexts() {
-		for kind := kindAny; kind < 3; kind++ {
+		for kind := byhand.KindAny; kind < 3; kind++ {
 			for _, piece := range []int{32768, 1000, 65535} {
-				packed, used := wordsPack(s, piece, kind)
+				packed, used := byhand.Pack(s, piece, kind)
 				checkRight(t, packed, s)
-				if kind == kindAny && piece == 32768 {
+				if kind == byhand.KindAny && piece == 32768 {
 					for i, n := range used {
 						kinds[i] += n
 					}
@@ -806,7 +807,7 @@ func TestAtOneTime(t *testing.T) {
 		wait.Go(func() {
 			for j, s := range someTexts() {
 				s = s[:min(len(s), 2000)]
-				packed, _ := wordsPack(s, 700, (i+j)%4-1)
+				packed, _ := byhand.Pack(s, 700, (i+j)%4-1)
 				checkRight(t, packed, s)
 			}
 		})

@@ -2,65 +2,31 @@ package inflate
 
 import (
 	"slices"
-	"strings"
 
 	"engrosser/api"
+	"engrosser/byhand"
 )
 
-// In these tests bits are told as digits, in the order in which they are read.
+// The beginnings of blocks: is it the last one, and of which kind.
+const (
+	storedBlock, lastStored = "000", "100"
+	fixedBlock, lastFixed   = "010", "110"
+	toldBlock, lastTold     = "001", "101"
+	wrongBlock, lastWrong   = "011", "111"
+)
 
-// bitsOf answers the bits of s, the lowest one of each byte first.
-func bitsOf(s string) string {
-	b := make([]byte, 8*len(s))
-	for i := range b {
-		b[i] = '0' + s[i/8]>>(i%8)&1
-	}
-	return string(b)
-}
+// run is a symbol by which lengths are told, and the number behind it.
+type run = byhand.Run
 
-// packed answers the text with such bits. What fills up the last byte are bits as told.
-func packed(bits string, fill byte) string {
-	b := make([]byte, (len(bits)+7)/8)
-	for i := range 8 * len(b) {
-		digit := fill
-		if i < len(bits) {
-			digit = bits[i]
-		}
-		b[i/8] |= (digit - '0') << (i % 8)
-	}
-	return string(b)
-}
+// fixed is the packer of blocks of kind 1.
+var fixed = byhand.Fixed()
 
-// text answers the text with such bits, and zeros behind the last one.
-func text(bits ...string) string { return packed(strings.Join(bits, ""), '0') }
+// fixedSymbols and fixedDistances are what each code in such a block means.
+var fixedSymbols, fixedDistances = fixedMeaning()
 
-// number answers the bits of a number, the lowest one first.
-func number(n, size int) string {
-	var b strings.Builder
-	for i := range size {
-		b.WriteByte('0' + byte(n>>i&1))
-	}
-	return b.String()
-}
-
-// codesOf answers each symbol's code, one length behind the other, in the words of chapter 9; nothing of a length 0. Of lengths that make no code some codes begin with others.
-func codesOf(lengths []int) []string {
-	codes := make([]string, len(lengths))
-	behind := 0
-	for n := 1; n <= 15; n++ {
-		behind *= 2
-		for i, length := range lengths {
-			if length == n {
-				code := make([]byte, n)
-				for bit := range code {
-					code[bit] = '0' + byte(behind>>(n-1-bit)&1)
-				}
-				codes[i] = string(code)
-				behind++
-			}
-		}
-	}
-	return codes
+func fixedMeaning() (symbols, distances map[string]int) {
+	lengths, back := byhand.FixedLengths()
+	return symbolsOf(lengths), symbolsOf(back)
 }
 
 // areCode tells whether chapter 9 makes a code of lengths.
@@ -78,41 +44,11 @@ func areCode(lengths []int) bool {
 // repeated answers so many of n.
 func repeated(n, count int) []int { return slices.Repeat([]int{n}, count) }
 
-// fixedLengths are those of symbols in a block of kind 1, fixedBack those of distances.
-var (
-	fixedLengths = slices.Concat(repeated(8, 144), repeated(9, 256-144), repeated(7, 280-256), repeated(8, 288-280))
-	fixedBack    = repeated(5, 32)
-)
-
-// fixedSymbols and fixedDistances are what each code in such a block means.
-var fixedSymbols, fixedDistances = symbolsOf(fixedLengths), symbolsOf(fixedBack)
-
-// lengthRows and distanceRows tell, row by row, how many symbols have how many bits more.
-var (
-	lengthRows   = [][2]int{{8, 0}, {4, 1}, {4, 2}, {4, 3}, {4, 4}, {4, 5}}
-	distanceRows = [][2]int{{4, 0}, {2, 1}, {2, 2}, {2, 3}, {2, 4}, {2, 5}, {2, 6}, {2, 7}, {2, 8}, {2, 9}, {2, 10}, {2, 11}, {2, 12}, {2, 13}}
-)
-
-// wordsTable answers the base and the bits more of each symbol of such rows: each base is the one ahead of it, and 2 to the power of that one's bits.
-func wordsTable(first int, rows [][2]int) [][2]int {
-	var table [][2]int
-	for _, row := range rows {
-		for range row[0] {
-			table = append(table, [2]int{first, row[1]})
-			first += 1 << row[1]
-		}
-	}
-	return table
-}
-
 // wordsLengths are those from symbol 257 on, wordsDistances those from 0 on.
-var (
-	wordsLengths   = append(wordsTable(3, lengthRows), [2]int{258, 0})
-	wordsDistances = wordsTable(1, distanceRows)
-)
+var wordsLengths, wordsDistances = byhand.Lengths(), byhand.Distances()
 
 // order is that of P10.2.
-var order = []int{16, 17, 18, 0, 8, 7, 9, 6, 10, 5, 11, 4, 12, 3, 13, 2, 14, 1, 15}
+var order = byhand.Order()
 
 // wordsReader is what wordsOpen has read and said. Each fault is a panic.
 type wordsReader struct {
@@ -136,7 +72,7 @@ func wordsOpen(s string, most int) (out string, used int, e api.Errno) {
 			panic(fault)
 		}
 	}()
-	w := &wordsReader{bits: bitsOf(s), most: most}
+	w := &wordsReader{bits: byhand.Bits(s), most: most}
 	for last := false; !last; {
 		last = w.take(1) == "1"
 		switch w.number(2) {
@@ -198,7 +134,7 @@ func symbolsOf(lengths []int) map[string]int {
 		panic(api.ErrForm)
 	}
 	known := map[string]int{}
-	for i, code := range codesOf(lengths) {
+	for i, code := range byhand.Codes(lengths) {
 		if code != "" {
 			known[code] = i
 		}
