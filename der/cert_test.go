@@ -10,51 +10,6 @@ import (
 	"engrosser/sample"
 )
 
-// poisonName is the first part of the poison.
-const poisonName = "\x06\x0a\x2b\x06\x01\x04\x01\xd6\x79\x02\x04\x03"
-
-// poison answers the one of true precertificates.
-func poison() string { return list(poisonName, item(1, "\xff"), item(4, "\x05\x00")) }
-
-// ext answers an extension that is no poison, with a text of n bytes.
-func ext(n int) string { return list(item(6, "\x55\x1d\x0f"), item(4, sample.Text(n, 1))) }
-
-// key answers one as it stands in a body, with a text of n bytes.
-func key(n int) string { return list(list(item(6, "\x2b\x65\x70")), item(3, sample.Text(n, 2))) }
-
-// fields answer what stands ahead of the extensions in a body; the key is the last one.
-func fields() []string {
-	return []string{item(0xa0, item(2, "\x02")), item(2, "\x07"), list(item(6, "\x2b\x65\x70")), list(item(0x31, "\x04\x00")), list(item(0x17, "2026"), item(0x17, "2027")), list(), key(32)}
-}
-
-// bodyOf answers a body that has the fields and, if there is one, a part a3 of the extensions.
-func bodyOf(exts ...string) string {
-	all := fields()
-	if len(exts) > 0 {
-		all = append(all, item(0xa3, list(exts...)))
-	}
-	return list(all...)
-}
-
-// certOf answers a certificate of the body.
-func certOf(body string) string {
-	return list(body, list(item(6, "\x2b\x65\x70")), item(3, "\x00"+sample.Text(64, 3)))
-}
-
-// exactly answers a certificate of size bytes; the body has a poison if it shall.
-func exactly(size int, poisoned bool) (cert, without string) {
-	for n := size - 400; n < size; n++ {
-		exts := []string{ext(n)}
-		if poisoned {
-			exts = append(exts, poison())
-		}
-		if cert = certOf(bodyOf(exts...)); len(cert) == size {
-			return cert, bodyOf(ext(n))
-		}
-	}
-	return "", ""
-}
-
 func checkStrip(t *testing.T, cert string, want stripped) {
 	t.Helper()
 	tbs, pre, e := der.Strip(cert)
@@ -262,7 +217,7 @@ func TestNoCertificates(t *testing.T) {
 func TestLongest(t *testing.T) {
 	for _, poisoned := range []bool{false, true} {
 		for size := api.MaxBody - 3; size <= api.MaxBody; size++ {
-			cert, without := exactly(size, poisoned)
+			cert, without := sample.CertOf(size, poisoned)
 			if len(cert) != size {
 				t.Fatalf("%d bytes, not %d", len(cert), size)
 			}
@@ -276,7 +231,7 @@ func TestLongest(t *testing.T) {
 			checkKey(t, cert[:size-1], "", api.ErrForm)
 		}
 		for _, size := range []int{api.MaxBody + 1, api.MaxBody + 2, 2 * api.MaxBody, 70000} {
-			cert, _ := exactly(size, poisoned)
+			cert, _ := sample.CertOf(size, poisoned)
 			for _, long := range []string{cert, strings.Repeat("x", size), "\x30" + strings.Repeat("\x00", size), strings.Repeat("\x04\x00", size)} {
 				checkStrip(t, long, stripped{e: api.ErrLong})
 				checkKey(t, long, "", api.ErrLong)

@@ -3,27 +3,33 @@ package der_test
 import (
 	"crypto/sha256"
 	"encoding/hex"
-	"math/big"
 	"strconv"
 	"strings"
 
 	"engrosser/api"
 	"engrosser/der"
+	"engrosser/sample"
 )
 
-// tellLength answers what tells a length, in the chapter's words.
-func tellLength(n int) string {
-	if n < 128 {
-		return string([]byte{byte(n)})
-	}
-	b := big.NewInt(int64(n)).Bytes()
-	return string([]byte{0x80 + byte(len(b))}) + string(b)
-}
+// poisonName is the first part of the poison.
+const poisonName = sample.PoisonName
+
+// Short names of what certificates are built of.
+var (
+	item   = sample.Item
+	list   = sample.List
+	poison = sample.Poison
+	ext    = sample.Ext
+	key    = sample.Key
+	fields = sample.Fields
+	bodyOf = sample.Body
+	certOf = sample.Cert
+)
 
 // lengths are what tells each length that these tests often meet.
 var lengths = func() (all []string) {
 	for n := range 3000 {
-		all = append(all, tellLength(n))
+		all = append(all, sample.Length(n))
 	}
 	return all
 }()
@@ -33,17 +39,8 @@ func lengthOf(n int) string {
 	if n < len(lengths) {
 		return lengths[n]
 	}
-	return tellLength(n)
+	return sample.Length(n)
 }
-
-// item answers the one that has the parts, one behind the other, as its text.
-func item(tag int, parts ...string) string {
-	text := strings.Join(parts, "")
-	return string([]byte{byte(tag)}) + lengthOf(len(text)) + text
-}
-
-// list answers the item of tag 30 that has these parts.
-func list(parts ...string) string { return item(0x30, parts...) }
 
 // wordsNext is Next in the chapter's words: each length is tried.
 func wordsNext(s string) (der.Item, api.Errno) {

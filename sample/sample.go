@@ -1,4 +1,4 @@
-// Package sample has texts for the tests of the other packages, which are handed no chance: the same ones each time.
+// Package sample has texts, and certificates, for the tests of the other packages, which are handed no chance: the same ones each time.
 package sample
 
 // Text answers a text of n bytes that follow no plain rule; another seed, from 0 on, has another one.
